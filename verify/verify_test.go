@@ -527,15 +527,19 @@ func sameAsk(a, b ask) bool {
 
 func TestWhatIsHandedInStays(t *testing.T) {
 	for _, x := range asks() {
-		want, y := tell(x), guarded(x)
+		y := guarded(x)
 		was := whole(y)
 		got := tell(y)
-		if !got.same(want) {
+		if !sameAsk(whole(y), was) {
+			t.Errorf("P1602: %s: what was handed in has changed", x.what)
+		}
+		// Only now is it asked without spare room: a call that turns what it is handed would else have done so ahead of the copy.
+		if !got.same(tell(x)) {
 			t.Errorf("P1602: %s: an answer hangs on spare room", x.what)
 		}
 		got.scribble()
 		if !sameAsk(whole(y), was) {
-			t.Errorf("P1602: %s: what was handed in has changed", x.what)
+			t.Errorf("P1602: %s: an answer shares memory with what was handed in", x.what)
 		}
 	}
 }
